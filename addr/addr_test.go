@@ -226,6 +226,9 @@ var printed4 = []struct {
 
 func TestPrint4AndParse4(t *testing.T) {
 	for _, c := range printed4 {
+		if err := Check4(c.a); err != nil {
+			t.Errorf("Check4 of %d: %v", c.a, err)
+		}
 		text, err := Print4(c.a)
 		expect(t, "Print4", text, err, c.text, api.OK)
 		got, err := Parse4(c.text)
@@ -247,6 +250,9 @@ func TestPrint4Outside(t *testing.T) {
 	for _, bad := range []int{-1, 1 << 32, 1<<32 + 1, -1 << 32, 1 << 40, math.MinInt, math.MaxInt} {
 		got, err := Print4(bad)
 		expect(t, "Print4 outside", got, err, "", api.ErrRange)
+		if err := Check4(bad); plain.Told(err) != api.ErrRange {
+			t.Errorf("Check4 of %d: %v", bad, err)
+		}
 	}
 }
 
