@@ -118,12 +118,14 @@ func expectSeg(t *testing.T, kind int, b []byte, over int, want api.Seg, wrong a
 	}
 }
 
-// refused tells that Check and Encode both answer the error, and no byte, whatever stands over.
+// refused tells that Check, Size and Encode all answer the error, and no byte, whatever stands over.
 func refused(t *testing.T, s api.Seg, wrong api.Errno) {
 	t.Helper()
 	if err := Check(s); plain.Told(err) != wrong {
 		t.Errorf("Check(%v): got %v, want %v", s, err, wrong)
 	}
+	n, err := Size(s)
+	expect(t, fmt.Sprintf("Size(%v)", s), n, err, 0, wrong)
 	for _, over := range []int{0, 65535, -1, 65536} {
 		expectBytes(t, s, over, nil, wrong)
 	}
@@ -194,6 +196,8 @@ func (e place) outside() []int {
 
 func TestRows(t *testing.T) {
 	for _, r := range rows() {
+		n, err := Size(r.s)
+		expect(t, fmt.Sprintf("Size(%v)", r.s), n, err, len(r.b), api.OK)
 		if err := Check(r.s); err != nil {
 			t.Errorf("Check(%v): %v", r.s, err)
 		}
