@@ -1181,6 +1181,41 @@ func TestNothingIsWrittenOrShared(t *testing.T) {
 	expectBinds(t, g, was...)
 }
 
+// TestClose6: a packet as it is written out elsewhere; what is wrong is told in order, the segment first.
+func TestClose6(t *testing.T) {
+	for _, s := range []api.Seg{udp(7, 80, ""), udp(0, 65535, "x"), tcp(7, 80, 1<<32-1, 5, 31, ofLength(300)), udp(7, 80, ofLength(300))} {
+		for _, hop := range []int{0, 1, 64, 255} {
+			want := packet6(t, client, vip, hop, s)
+			got, err := Close6(client, vip, hop, s)
+			if err != nil || !bytes.Equal(got, want) {
+				t.Fatalf("Close6 of %v: got %x, %v; want %x", s, got, err, want)
+			}
+			fill(got)
+			if again, _ := Close6(client, vip, hop, s); !bytes.Equal(again, want) {
+				t.Fatalf("Close6 of %v: what came out is kept", s)
+			}
+		}
+	}
+	wrong := api.Six{7: 65536}
+	refuse := func(src, dst api.Six, hop int, s api.Seg, want api.Errno) {
+		t.Helper()
+		if got, err := Close6(src, dst, hop, s); got != nil || plain.Told(err) != want {
+			t.Errorf("Close6 of %v: got %x, %v; want %v alone", s, got, err, want)
+		}
+	}
+	for _, s := range []api.Seg{{}, {Kind: 58}, udp(65536, 80, ""), udp(7, -1, ofLength(301)), tcp(7, 80, 1<<32, 0, 2, "")} {
+		refuse(client, vip, 64, s, api.ErrRange)
+	}
+	refuse(wrong, wrong, -1, udp(7, 80, ofLength(301)), api.ErrFull)
+	refuse(client, vip, 64, udp(7, 80, ofLength(313)), api.ErrFull)
+	refuse(client, vip, 64, api.Seg{Kind: api.UDP, Seq: 1}, api.ErrShape)
+	refuse(wrong, vip, 64, udp(7, 80, ""), api.ErrRange)
+	refuse(client, wrong, 64, udp(7, 80, ""), api.ErrRange)
+	for _, hop := range append([]int{256}, outside...) {
+		refuse(client, vip, hop, udp(7, 80, ""), api.ErrRange)
+	}
+}
+
 func fill(b []byte) {
 	b = b[:cap(b)]
 	for i := range b {
